@@ -1,0 +1,1 @@
+"""Programs whose loops say how often."""
