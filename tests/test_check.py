@@ -3,10 +3,8 @@
 import itertools
 import unittest
 
-from texts import ROUND, SQUARE, mixed, nest, signs
+from texts import LETTERS, ROUND, SQUARE, mixed, nest, short_programs, signs
 from toldloops.loops import check
-
-LETTERS = "abcdefghijklmnopqrstuvwxyz"
 
 
 class Programs(unittest.TestCase):
@@ -209,25 +207,6 @@ class EveryByte(unittest.TestCase):
         self.allow("x(" * 64 + "x", "=+-")
 
 
-def programs(longest):
-    """By length, all texts of programs of the variable a, built up by the grammar."""
-    found = [[""]]
-    for length in range(1, longest + 1):
-        texts = []
-        for first in range(2, length + 1):
-            for statement in statements(first, found):
-                texts.extend(statement + rest for rest in found[length - first])
-        found.append(texts)
-    return found
-
-
-def statements(length, found):
-    if length == 2:
-        return ["a+", "a-"]
-    loops = ["a" + kind[0] + inner + kind[1] for kind in (ROUND, SQUARE) for inner in found[length - 3]]
-    return loops + (["a=0", "a=a"] if length == 3 else [])
-
-
 class ByTheWords(unittest.TestCase):
     """All short texts against the promise's own words."""
 
@@ -235,8 +214,7 @@ class ByTheWords(unittest.TestCase):
         longest = 5
         # A text of 5 bytes opens 2 loops at the most and lacks one more byte
         # behind a letter, so programs of 8 bytes show all that may begin one.
-        found = programs(8)
-        whole = {text for texts in found for text in texts}
+        whole = set(short_programs("a", 8))
         begins = {text[:k] for text in whole for k in range(longest + 1)}
         for length in range(longest + 1):
             for row in itertools.product("a0=+-()[]", repeat=length):

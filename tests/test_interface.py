@@ -23,53 +23,84 @@ PROGRAMS = [
     "a+" * 200,
 ]
 OTHER_TEXTS = ["a", "a=", "a(", "(", "a(]", "a+)", nest(mixed(65)), "\0\xff", "a(" * 200, "a+" * 199 + "b["]
-CALLS = [(loops.check, PROGRAMS + OTHER_TEXTS), (loops.told, PROGRAMS)]
+STARTS = [[0] * 26, list(range(26)), [2**62 - 1] * 26]
+LIMITS = [0, 1, 20000]
+
+
+def one_text(texts):
+    """What is handed in to a call of a text alone."""
+    return [[signs(text)] for text in texts]
+
+
+# By the call's name: its arguments' names, how many numbers it tells, and what is handed in.
+CALLS = {
+    "check": (["text"], 1, one_text(PROGRAMS + OTHER_TEXTS)),
+    "told": (["text"], 1, one_text(PROGRAMS)),
+    "depth": (["text"], 1, one_text(PROGRAMS)),
+    "run": (
+        ["limit", "the_vars", "text"],
+        27,
+        [[limit, start, signs(text)] for limit in LIMITS for start in STARTS for text in PROGRAMS],
+    ),
+}
 
 
 def each():
-    """Each call with each of its texts."""
-    return [(call, signs(text)) for call, texts in CALLS for text in texts]
+    """Each call with all that's handed in to it, in lists of its own."""
+    return [(getattr(loops, name), copied(given)) for name, row in CALLS.items() for given in row[2]]
+
+
+def copied(given):
+    return [list(value) if isinstance(value, list) else value for value in given]
+
+
+def frozen(given):
+    return [Frozen(value) if isinstance(value, list) else value for value in given]
 
 
 class EveryCall(unittest.TestCase):
     def test_arguments(self):
-        for call, unused in CALLS:
-            self.assertEqual(list(inspect.signature(call).parameters), ["text"])
-            self.assertEqual(call(text=signs("a+")), call(signs("a+")))
+        for name, (names, unused, rows) in CALLS.items():
+            call = getattr(loops, name)
+            self.assertEqual(list(inspect.signature(call).parameters), names)
+            self.assertEqual(call(**dict(zip(names, rows[0]))), call(*rows[0]))
 
-    def test_one_int_in_a_list(self):
-        for call, text in each():
-            answer = call(text)
-            self.assertIs(type(answer), list)
-            self.assertEqual([type(number) for number in answer], [int], (call, text))
+    def test_so_many_ints_in_a_list(self):
+        for name, (unused, many, rows) in CALLS.items():
+            for given in rows:
+                answer = getattr(loops, name)(*given)
+                self.assertIs(type(answer), list)
+                self.assertEqual([type(number) for number in answer], [int] * many, (name, given))
 
-    def test_text_is_the_same_afterwards(self):
-        for call, text in each():
-            before = list(text)
-            call(text)
-            self.assertEqual(text, before, call)
+    def test_what_is_handed_in_is_the_same_afterwards(self):
+        for call, given in each():
+            before = copied(given)
+            call(*given)
+            self.assertEqual(given, before, call)
 
-    def test_text_is_not_changed_for_a_while(self):
-        for call, text in each():
-            self.assertEqual(call(Frozen(text)), call(text), call)
+    def test_what_is_handed_in_is_not_changed_for_a_while(self):
+        for call, given in each():
+            self.assertEqual(call(*frozen(given)), call(*given), call)
 
     def test_nothing_is_kept(self):
-        first = [call(text) for call, text in each()]
-        second = [call(text) for call, text in each()]
-        self.assertEqual(first, second)
+        first = [call(*given) for call, given in each()]
+        again = [call(*given) for call, given in reversed(each())]
+        self.assertEqual(first, list(reversed(again)))
 
     def test_an_answer_is_its_own_list(self):
-        for call, text in each():
-            answer = call(text)
+        for call, given in each():
+            answer = call(*given)
             before = list(answer)
+            for value in given:
+                self.assertIsNot(answer, value)
             answer.append(7)
-            self.assertEqual(call(text), before, call)
+            self.assertEqual(call(*given), before, call)
 
     def test_nothing_is_printed(self):
         out, err = io.StringIO(), io.StringIO()
         with contextlib.redirect_stdout(out), contextlib.redirect_stderr(err):
-            for call, text in each():
-                call(text)
+            for call, given in each():
+                call(*given)
         self.assertEqual((out.getvalue(), err.getvalue()), ("", ""))
 
 

@@ -6,7 +6,10 @@ ZERO = 48
 EQUALS = 61
 PLUS = 43
 MINUS = 45
+ROUND_OPENING = 40
+ROUND_CLOSING = 41
 SQUARE_OPENING = 91
+SQUARE_CLOSING = 93
 
 # The sign that closes a loop, by the sign that opens it.
 CLOSING_SIGNS = {40: 41, 91: 93}
@@ -87,3 +90,107 @@ def told(text):
     if SQUARE_OPENING in text:
         return [0]
     return [1]
+
+
+def opens(sign):
+    """Whether the sign opens a loop of either kind."""
+    return sign in CLOSING_SIGNS
+
+
+def closes(sign):
+    """Whether the sign closes a loop of either kind."""
+    return sign == ROUND_CLOSING or sign == SQUARE_CLOSING
+
+
+def depth(text):
+    """How deep the program's loops lie in one another."""
+    around = 0
+    deepest = 0
+    for sign in text:
+        if opens(sign):
+            around = around + 1
+            deepest = max(deepest, around)
+        elif closes(sign):
+            around = around - 1
+    return [deepest]
+
+
+def partners(text):
+    """By the place of each sign that opens or closes a loop, the place of its partner."""
+    found = {}
+    unclosed = []
+    for k, sign in enumerate(text):
+        if opens(sign):
+            unclosed.append(k)
+        elif closes(sign):
+            start = unclosed.pop()
+            found[start] = k
+            found[k] = start
+    return found
+
+
+def variable(letter):
+    """Which of the 26 variables the letter stands for, a being the 0th."""
+    return letter - FIRST_LETTER
+
+
+def do_small(now, text, k):
+    """Do the statement x=0, x=y, x+ or x- at k to the variables; answer the place behind it."""
+    x = variable(text[k])
+    sign = text[k + 1]
+    if sign == PLUS:
+        now[x] = now[x] + 1
+        return k + 2
+    if sign == MINUS:
+        now[x] = max(now[x] - 1, 0)
+        return k + 2
+    source = text[k + 2]
+    if source == ZERO:
+        now[x] = 0
+    else:
+        now[x] = now[variable(source)]
+    return k + 3
+
+
+def do_step(now, left, other, text, k):
+    """Do the step of the statement that begins at k; answer the place where it goes on.
+
+    now holds the variables, left how many rounds are left of each open loop
+    x(P), the inmost loop's last, and other what partners(text) answers.
+    """
+    sign = text[k + 1]
+    if sign == ROUND_OPENING:
+        left.append(now[variable(text[k])])
+        # Its end is where it's asked whether a round is left, for the first one too.
+        return other[k + 1]
+    if sign == SQUARE_OPENING:
+        if now[variable(text[k])] == 0:
+            return other[k + 1] + 1
+        return k + 2
+    return do_small(now, text, k)
+
+
+def run(limit, the_vars, text):
+    """How many steps the program takes and the variables behind it, or -1 and those before it."""
+    now = list(the_vars)
+    left = []
+    other = partners(text)
+    steps = 0
+    k = 0
+    while k < len(text) and steps <= limit:
+        if text[k] == SQUARE_CLOSING:
+            # Back to the loop's letter, where its variable is looked at once more.
+            k = other[k] - 1
+        elif text[k] == ROUND_CLOSING and left[-1] == 0:
+            left.pop()
+            k = k + 1
+        elif text[k] == ROUND_CLOSING:
+            left[-1] = left[-1] - 1
+            steps = steps + 1
+            k = other[k] + 1
+        else:
+            steps = steps + 1
+            k = do_step(now, left, other, text, k)
+    if steps > limit:
+        return [-1] + list(the_vars)
+    return [steps] + now
