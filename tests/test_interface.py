@@ -23,8 +23,10 @@ PROGRAMS = [
     "a+" * 200,
 ]
 OTHER_TEXTS = ["a", "a=", "a(", "(", "a(]", "a+)", nest(mixed(65)), "\0\xff", "a(" * 200, "a+" * 199 + "b["]
+FEW_LOOPS = PROGRAMS[:8] + [nest([ROUND] * 8), nest([SQUARE] * 8), nest(mixed(8), "x=q" * 125), "a+" * 200]
 STARTS = [[0] * 26, list(range(26)), [2**62 - 1] * 26]
 LIMITS = [0, 1, 20000]
+AFTERS = [0, 1, 2**25, 2**26 - 1]
 
 
 def one_text(texts):
@@ -42,6 +44,8 @@ CALLS = {
         27,
         [[limit, start, signs(text)] for limit in LIMITS for start in STARTS for text in PROGRAMS],
     ),
+    "changes": (["text"], 1, one_text(PROGRAMS)),
+    "needs": (["after", "text"], 1, [[after, signs(text)] for after in AFTERS for text in FEW_LOOPS]),
 }
 
 

@@ -10,6 +10,11 @@ def signs(text):
     return list(text.encode("latin-1"))
 
 
+def bits(letters):
+    """The number with the bits of these variables, a's being the lowest."""
+    return sum(1 << LETTERS.index(letter) for letter in set(letters))
+
+
 def nest(kinds, inner=""):
     """Loops within one another, the outmost first in kinds, around inner."""
     front = "".join("x" + kind[0] for kind in kinds)

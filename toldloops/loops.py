@@ -194,3 +194,57 @@ def run(limit, the_vars, text):
     if steps > limit:
         return [-1] + list(the_vars)
     return [steps] + now
+
+
+def bit(letter):
+    """The number with the bit of the letter's variable alone."""
+    return 1 << variable(letter)
+
+
+def changes(text):
+    """The bits of the variables that stand first in a statement other than a loop."""
+    changed = 0
+    for k, sign in enumerate(text):
+        # In a program's text these signs stand nowhere but behind such a statement's first letter.
+        if sign == EQUALS or sign == PLUS or sign == MINUS:
+            changed = changed | bit(text[k - 1])
+    return [changed]
+
+
+def before_set(needed, letter, source):
+    """What's needed before a statement that sets the letter's variable to source, with needed behind it."""
+    x = bit(letter)
+    if needed & x == 0:
+        return needed
+    if source == ZERO:
+        return needed ^ x
+    return (needed ^ x) | bit(source)
+
+
+def needs(after, text):
+    """The bits of the variables that are needed before the program, for those in after behind it."""
+    other = partners(text)
+    # What each loop is known to need, by its opening sign. It only grows: whenever a loop is
+    # come to again, at least as much is needed behind it as the last time.
+    known = {}
+    needed = after
+    k = len(text) - 1
+    while k >= 0:
+        sign = text[k]
+        if closes(sign):
+            start = other[k]
+            known[start] = known.get(start, bit(text[start - 1])) | needed
+            needed = known[start]
+            k = k - 1
+        elif opens(sign) and (needed | known[k]) == known[k]:
+            needed = known[k]
+            k = k - 2
+        elif opens(sign):
+            # P needs more than was known: once more from its end, with that too.
+            k = other[k]
+        elif sign == PLUS or sign == MINUS:
+            k = k - 2
+        else:
+            needed = before_set(needed, text[k - 2], sign)
+            k = k - 3
+    return [needed]
