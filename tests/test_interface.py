@@ -3,6 +3,7 @@
 import contextlib
 import inspect
 import io
+import sys
 import unittest
 
 from texts import ROUND, SQUARE, Frozen, mixed, nest, signs
@@ -26,6 +27,7 @@ OTHER_TEXTS = ["a", "a=", "a(", "(", "a(]", "a+)", nest(mixed(65)), "\0\xff", "a
 FEW_LOOPS = PROGRAMS[:8] + [nest([ROUND] * 8), nest([SQUARE] * 8), nest(mixed(8), "x=q" * 125), "a+" * 200]
 STARTS = [[0] * 26, list(range(26)), [2**62 - 1] * 26]
 LIMITS = [0, 1, 20000]
+NUMBERS = [0, 1, 2, 3, 4, 5, 6, 59, 60, 2**31 - 1]
 AFTERS = [0, 1, 2**25, 2**26 - 1]
 
 
@@ -46,6 +48,8 @@ CALLS = {
     ),
     "changes": (["text"], 1, one_text(PROGRAMS)),
     "needs": (["after", "text"], 1, [[after, signs(text)] for after in AFTERS for text in FEW_LOOPS]),
+    "level": (["text"], 1, one_text(PROGRAMS)),
+    "ack": (["m", "n"], 1, [[m, n] for m in NUMBERS for n in NUMBERS]),
 }
 
 
@@ -63,6 +67,9 @@ def frozen(given):
 
 
 class EveryCall(unittest.TestCase):
+    def test_the_eight_calls(self):
+        self.assertEqual(list(CALLS), ["check", "told", "depth", "run", "changes", "needs", "level", "ack"])
+
     def test_arguments(self):
         for name, (names, unused, rows) in CALLS.items():
             call = getattr(loops, name)
@@ -90,6 +97,22 @@ class EveryCall(unittest.TestCase):
         first = [call(*given) for call, given in each()]
         again = [call(*given) for call, given in reversed(each())]
         self.assertEqual(first, list(reversed(again)))
+
+    def test_the_module_stays_as_it_is(self):
+        before = {name: repr(value) for name, value in vars(loops).items()}
+        for call, given in each():
+            call(*given)
+        self.assertEqual({name: repr(value) for name, value in vars(loops).items()}, before)
+
+    def test_texts_are_gone_through_by_loops(self):
+        rows = each()
+        before = sys.getrecursionlimit()
+        sys.setrecursionlimit(len(inspect.stack()) + 20)
+        try:
+            for call, given in rows:
+                call(*given)
+        finally:
+            sys.setrecursionlimit(before)
 
     def test_an_answer_is_its_own_list(self):
         for call, given in each():

@@ -3,7 +3,7 @@
 import itertools
 import unittest
 
-from texts import LETTERS, ROUND, SQUARE, bits, short_programs, signs, tree
+from texts import LETTERS, ROUND, SQUARE, bits, short_programs, signs, squared, tree
 from toldloops.loops import needs
 
 ALL = 2**26 - 1
@@ -29,7 +29,7 @@ class NeedsTest(unittest.TestCase):
     def need_both(self, text, after, before):
         """The same of the text with loops of the other kind."""
         self.need(text, after, before)
-        self.need(text.translate(str.maketrans("()", "[]")), after, before)
+        self.need(squared(text), after, before)
 
 
 class SmallStatements(NeedsTest):

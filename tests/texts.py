@@ -27,6 +27,11 @@ def mixed(many):
     return [ROUND if k % 2 == 0 else SQUARE for k in range(many)]
 
 
+def squared(text):
+    """The text with loops that go on in the place of those that say how often."""
+    return text.replace("(", "[").replace(")", "]")
+
+
 def programs(letters, longest):
     """By length, all texts of programs of these variables, built up by the grammar."""
     found = [[""]]

@@ -201,12 +201,16 @@ def bit(letter):
     return 1 << variable(letter)
 
 
+def marks_small(sign):
+    """Whether the sign is one of those that each statement but a loop has once, behind its first letter."""
+    return sign == EQUALS or sign == PLUS or sign == MINUS
+
+
 def changes(text):
     """The bits of the variables that stand first in a statement other than a loop."""
     changed = 0
     for k, sign in enumerate(text):
-        # In a program's text these signs stand nowhere but behind such a statement's first letter.
-        if sign == EQUALS or sign == PLUS or sign == MINUS:
+        if marks_small(sign):
             changed = changed | bit(text[k - 1])
     return [changed]
 
@@ -248,3 +252,45 @@ def needs(after, text):
             needed = before_set(needed, text[k - 2], sign)
             k = k - 3
     return [needed]
+
+
+def loop_level(inner, behind):
+    """The level of a loop and the statements that follow, from P's level and theirs."""
+    m = max(inner + 1, 2)
+    return max(m + 2, behind) + 2
+
+
+def level(text):
+    """The program's level."""
+    reached = 0
+    # The levels of what follows the loops one is in, the inmost loop's last.
+    behind = []
+    for sign in reversed(text):
+        if marks_small(sign):
+            reached = reached + 2
+        elif closes(sign):
+            behind.append(reached)
+            reached = 0
+        elif opens(sign):
+            reached = loop_level(reached, behind.pop())
+    return [reached]
+
+
+def ack(m, n):
+    """Ackermann's A(m, n) if it's below 2^62, else -1."""
+    if m == 0:
+        return [n + 1]
+    if m == 1:
+        return [n + 2]
+    if m == 2:
+        return [2 * n + 3]
+    # A(3, n) is 2^(n + 3) - 3, which is below 2^62 up to n = 59.
+    if m == 3 and n <= 59:
+        return [(1 << (n + 3)) - 3]
+    # A(4, 0) is A(3, 1), A(4, 1) is A(3, 13), and A(5, 0) is A(4, 1). The next ones are
+    # A(3, 65533) or more, and so are all with a greater m.
+    if m == 4 and n == 0:
+        return [13]
+    if (m == 4 and n == 1) or (m == 5 and n == 0):
+        return [65533]
+    return [-1]
