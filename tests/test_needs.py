@@ -260,6 +260,9 @@ class LongTexts(NeedsTest):
                 slow = "y" + kind[0] + slow + row + "z+" * 18 + kind[1]
                 # Five times the row in one P takes each letter to the row's last one.
                 quick = "y" + kind[0] + quick + row * 5 + kind[1]
+            for text in (slow, quick):
+                for after in LETTERS:
+                    self.need(text, after, needs_by_rounds({after}, tree(text)))
             for after in (0, 12, 20):
                 self.need(slow, LETTERS[after], LETTERS[after:25])
             self.need(quick, "a", LETTERS[::3])
@@ -290,6 +293,35 @@ def needs_by_the_words(after, statements, sets):
             needed = frozenset.intersection(*closed)
             assert needed in closed
     return frozenset(needed)
+
+
+def needs_by_rounds(after, statements):
+    """The same for many variables: a loop's set is grown from anew until a round adds nothing."""
+    needed = after
+    for x, sign, rest in reversed(statements):
+        if sign == "=":
+            source = {rest} - {"0"} if x in needed else set()
+            needed = (needed - {x}) | source
+        elif sign in "([":
+            before = None
+            needed = needed | {x}
+            while needed != before:
+                before = needed
+                needed = before | needs_by_rounds(before, rest)
+    return needed
+
+
+class ByRounds(NeedsTest):
+    def test_long_texts(self):
+        rows = (UP, DOWN, UP[:39], DOWN[:39], UP[36:], DOWN[36:])
+        for kinds in ((ROUND,), (SQUARE,), (ROUND, SQUARE)):
+            for inner in rows:
+                for between in rows[2:]:
+                    for heads in ("aaaaaaaa", "zyxwvuts", "aemquybz"):
+                        text = around(heads, inner, kinds, between[:39])
+                        self.assertLessEqual(len(text), 400)
+                        for after in ("", "a", "m", LETTERS):
+                            self.need(text, after, needs_by_rounds(set(after), tree(text)))
 
 
 class ByTheWords(NeedsTest):
